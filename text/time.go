@@ -1,0 +1,25 @@
+package text
+
+import "larder/api"
+
+const perSecond = 1000
+
+// deadline reads a time, and tells the deadline that it means behind such a word, or as an argument of such a command.
+func (c *call) deadline(unit string) uint64 {
+	c.want(c.left() > 0, api.BadSyntax)
+	n := c.number()
+	// Whatever the unit, no deadline is less than its number: what is above MaxTime already may go, and what is left is multiplied and added within a word.
+	c.want(n >= 1 && n <= api.MaxTime, api.BadTime)
+	at := uint64(n)
+	switch unit {
+	case "EX", "SETEX":
+		at *= perSecond
+		fallthrough
+	case "PX", "PSETEX":
+		at += c.space.Clock()
+	case "EXAT":
+		at *= perSecond
+	}
+	c.want(at <= api.MaxTime, api.BadTime)
+	return at
+}
