@@ -35,14 +35,14 @@ func (c *call) offset() int { return c.numberUpTo(maxBits-1, api.BadRange) }
 
 // getBit: GETBIT key offset.
 func (c *call) getBit() api.Reply {
-	key, offset := c.next(), c.offset()
+	key, offset := c.Next(), c.offset()
 	text, _ := c.text(key)
 	return api.Number(int64(bitAt(text, offset)))
 }
 
 // setBit: SETBIT key offset bit.
 func (c *call) setBit() api.Reply {
-	key := c.next()
+	key := c.Next()
 	offset := c.offset()
 	bit := c.bit()
 	text, _ := c.text(key)
@@ -63,16 +63,16 @@ type window struct {
 // window reads [start [stop [BYTE | BIT]]].
 func (c *call) window() window {
 	w := window{stop: -1, unit: "BYTE"}
-	if w.started = c.left() > 0; w.started {
-		w.start = c.number()
+	if w.started = c.Left() > 0; w.started {
+		w.start = c.Number()
 	}
-	if w.ended = c.left() > 0; w.ended {
-		w.stop = c.number()
+	if w.ended = c.Left() > 0; w.ended {
+		w.stop = c.Number()
 	}
-	if c.left() > 0 {
-		w.unit = c.oneOf("BYTE", "BIT")
+	if c.Left() > 0 {
+		w.unit = c.OneOf("BYTE", "BIT")
 	}
-	c.want(c.left() == 0, api.BadSyntax)
+	c.Want(c.Left() == 0, api.BadSyntax)
 	return w
 }
 
@@ -87,8 +87,8 @@ func (w window) bits(text []byte) (from, count int) {
 
 // countBits: BITCOUNT key [start stop [BYTE | BIT]].
 func (c *call) countBits() api.Reply {
-	key, w := c.next(), c.window()
-	c.want(w.started == w.ended, api.BadSyntax)
+	key, w := c.Next(), c.window()
+	c.Want(w.started == w.ended, api.BadSyntax)
 	text, _ := c.text(key)
 	from, count := w.bits(text)
 	ones := 0
@@ -100,7 +100,7 @@ func (c *call) countBits() api.Reply {
 
 // findBit: BITPOS key bit [start [stop [BYTE | BIT]]].
 func (c *call) findBit() api.Reply {
-	key := c.next()
+	key := c.Next()
 	bit := c.bit()
 	w := c.window()
 	text, _ := c.text(key)

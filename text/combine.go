@@ -7,20 +7,20 @@ import (
 
 // combineTexts: BITOP op dest key ..
 func (c *call) combineTexts() api.Reply {
-	op := match.Fold(c.next())
-	dest := c.next()
+	op := match.Fold(c.Next())
+	dest := c.Next()
 	var result []byte
 	switch op {
 	case "NOT":
-		c.want(c.left() == 1, api.BadSyntax)
+		c.Want(c.Left() == 1, api.BadSyntax)
 		fallthrough
 	case "AND", "OR", "XOR":
 		result = combine(op, c.texts()...)
 	default:
-		c.space.Fail(api.BadSyntax)
+		c.Space.Fail(api.BadSyntax)
 	}
 	if len(result) == 0 {
-		c.space.Remove(c.db, dest)
+		c.Space.Remove(c.DB, dest)
 	} else {
 		c.lay(dest, result, 0)
 	}
@@ -30,8 +30,8 @@ func (c *call) combineTexts() api.Reply {
 // texts tells the texts of all keys that are left to read.
 func (c *call) texts() [][]byte {
 	var found [][]byte
-	for c.left() > 0 {
-		text, _ := c.text(c.next())
+	for c.Left() > 0 {
+		text, _ := c.text(c.Next())
 		found = append(found, text)
 	}
 	return found

@@ -77,8 +77,8 @@ func (f field) sum(a, n int64, overflow string) (int64, bool) {
 
 // fieldType reads a field's type; where the field lies is read behind it.
 func (c *call) fieldType() field {
-	b := c.next()
-	c.want(len(b) > 0, api.BadField)
+	b := c.Next()
+	c.Want(len(b) > 0, api.BadField)
 	most := int64(0)
 	switch b[0] {
 	case 'i':
@@ -87,20 +87,20 @@ func (c *call) fieldType() field {
 		most = wordBits - 1
 	}
 	n, e := word.Int(b[1:])
-	c.want(e == api.OK && n >= 1 && n <= most, api.BadField)
+	c.Want(e == api.OK && n >= 1 && n <= most, api.BadField)
 	return field{signed: b[0] == 'i', bits: int(n)}
 }
 
 // fieldAt reads where a field lies.
 func (c *call) fieldAt(f field) field {
-	b, step := c.next(), int64(1)
+	b, step := c.Next(), int64(1)
 	if len(b) > 0 && b[0] == '#' {
 		b, step = b[1:], int64(f.bits)
 	}
-	n := c.integer(b)
+	n := c.Integer(b)
 	// A number behind a text's last bit is no less behind it times the field's bits; what is left can be multiplied.
-	c.want(n >= 0 && n < maxBits, api.BadRange)
-	c.want(n*step+int64(f.bits) <= maxBits, api.BadRange)
+	c.Want(n >= 0 && n < maxBits, api.BadRange)
+	c.Want(n*step+int64(f.bits) <= maxBits, api.BadRange)
 	f.at = int(n * step)
 	return f
 }

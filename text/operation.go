@@ -12,7 +12,7 @@ type operation struct {
 
 // workFields: BITFIELD key [operation ..].
 func (c *call) workFields() api.Reply {
-	key, operations := c.next(), c.operations()
+	key, operations := c.Next(), c.operations()
 	text, _ := c.text(key)
 	writes := false
 	for _, o := range operations {
@@ -35,18 +35,18 @@ func (c *call) workFields() api.Reply {
 func (c *call) operations() []operation {
 	var found []operation
 	overflow := "WRAP"
-	for c.left() > 0 {
-		switch w := c.oneOf("GET", "SET", "INCRBY", "OVERFLOW"); w {
+	for c.Left() > 0 {
+		switch w := c.OneOf("GET", "SET", "INCRBY", "OVERFLOW"); w {
 		case "OVERFLOW":
-			c.want(c.left() >= 1, api.BadSyntax)
-			overflow = c.oneOf("WRAP", "SAT", "FAIL")
+			c.Want(c.Left() >= 1, api.BadSyntax)
+			overflow = c.OneOf("WRAP", "SAT", "FAIL")
 		case "GET":
-			c.want(c.left() >= 2, api.BadSyntax)
+			c.Want(c.Left() >= 2, api.BadSyntax)
 			found = append(found, operation{word: w, field: c.fieldAt(c.fieldType())})
 		default:
-			c.want(c.left() >= 3, api.BadSyntax)
+			c.Want(c.Left() >= 3, api.BadSyntax)
 			f := c.fieldAt(c.fieldType())
-			found = append(found, operation{w, f, c.number(), overflow})
+			found = append(found, operation{w, f, c.Number(), overflow})
 		}
 	}
 	return found

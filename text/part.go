@@ -8,16 +8,16 @@ import (
 
 // appendText: APPEND key value.
 func (c *call) appendText() api.Reply {
-	key := c.next()
+	key := c.Next()
 	text, _ := c.text(key)
-	return api.Number(int64(c.change(key, text, c.next())))
+	return api.Number(int64(c.change(key, text, c.Next())))
 }
 
 // getRange: GETRANGE key start stop.
 func (c *call) getRange() api.Reply {
-	key := c.next()
-	start := c.number()
-	stop := c.number()
+	key := c.Next()
+	start := c.Number()
+	stop := c.Number()
 	text, _ := c.text(key)
 	from, count := match.Window(start, stop, len(text))
 	return api.Bulk(text[from : from+count])
@@ -25,9 +25,9 @@ func (c *call) getRange() api.Reply {
 
 // setRange: SETRANGE key offset value.
 func (c *call) setRange() api.Reply {
-	key := c.next()
+	key := c.Next()
 	offset := c.numberUpTo(api.MaxText, api.BadRange)
-	value := c.next()
+	value := c.Next()
 	text, _ := c.text(key)
 	if len(value) == 0 {
 		return api.Number(int64(len(text)))
@@ -45,16 +45,16 @@ func (c *call) lower() api.Reply { return c.count(less) }
 
 // count changes a key's number by the number that the command names, 1 where it names none.
 func (c *call) count(reckon func(a, b int64) (int64, api.Errno)) api.Reply {
-	key, by := c.next(), int64(1)
-	if c.left() > 0 {
-		by = c.number()
+	key, by := c.Next(), int64(1)
+	if c.Left() > 0 {
+		by = c.Number()
 	}
 	was := int64(0)
 	if text, there := c.text(key); there {
-		was = c.integer(text)
+		was = c.Integer(text)
 	}
 	sum, e := reckon(was, by)
-	c.want(e == api.OK, api.BadOver)
+	c.Want(e == api.OK, api.BadOver)
 	c.change(key, word.Text(sum))
 	return api.Number(sum)
 }

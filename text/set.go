@@ -12,16 +12,16 @@ type setOptions struct {
 
 // set: SET key value [NX | XX] [GET] [EX n | PX n | EXAT n | PXAT n | KEEPTTL].
 func (c *call) set() api.Reply {
-	key, value := c.next(), c.next()
+	key, value := c.Next(), c.Next()
 	o := c.setOptions()
 	var was api.Reply
 	if o.get != "" {
 		was = told(c.text(key))
 	}
-	laid := o.only == "" || c.isThere(key) == (o.only == "XX")
+	laid := o.only == "" || c.isTaken(key) == (o.only == "XX")
 	if laid {
 		if o.time == "KEEPTTL" {
-			o.deadline, _ = c.space.Deadline(c.db, key)
+			o.deadline, _ = c.Space.Deadline(c.DB, key)
 		}
 		c.lay(key, value, o.deadline)
 	}
@@ -37,8 +37,8 @@ func (c *call) set() api.Reply {
 // setOptions reads SET's options.
 func (c *call) setOptions() setOptions {
 	var o setOptions
-	for c.left() > 0 {
-		switch w := c.oneOf("NX", "XX", "GET", "EX", "PX", "EXAT", "PXAT", "KEEPTTL"); w {
+	for c.Left() > 0 {
+		switch w := c.OneOf("NX", "XX", "GET", "EX", "PX", "EXAT", "PXAT", "KEEPTTL"); w {
 		case "NX", "XX":
 			c.fill(&o.only, w)
 		case "GET":
@@ -55,6 +55,6 @@ func (c *call) setOptions() setOptions {
 
 // fill lays an option's word where it or one that excludes it may stand once.
 func (c *call) fill(option *string, w string) {
-	c.want(*option == "", api.BadSyntax)
+	c.Want(*option == "", api.BadSyntax)
 	*option = w
 }

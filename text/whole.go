@@ -3,37 +3,37 @@ package text
 import "larder/api"
 
 // get: GET key.
-func (c *call) get() api.Reply { return told(c.text(c.next())) }
+func (c *call) get() api.Reply { return told(c.text(c.Next())) }
 
 // length: STRLEN key.
 func (c *call) length() api.Reply {
-	text, _ := c.text(c.next())
+	text, _ := c.text(c.Next())
 	return api.Number(int64(len(text)))
 }
 
 // getAndSet: GETSET key value.
 func (c *call) getAndSet() api.Reply {
-	key := c.next()
+	key := c.Next()
 	was, there := c.text(key)
-	c.lay(key, c.next(), 0)
+	c.lay(key, c.Next(), 0)
 	return told(was, there)
 }
 
 // getAndRemove: GETDEL key.
 func (c *call) getAndRemove() api.Reply {
-	key := c.next()
+	key := c.Next()
 	was, there := c.text(key)
-	c.space.Remove(c.db, key)
+	c.Space.Remove(c.DB, key)
 	return told(was, there)
 }
 
 // getAndExpire: GETEX key [EX n | PX n | EXAT n | PXAT n | PERSIST].
 func (c *call) getAndExpire() api.Reply {
-	key := c.next()
+	key := c.Next()
 	given, deadline := "", uint64(0)
-	for c.left() > 0 {
-		unit := c.oneOf("EX", "PX", "EXAT", "PXAT", "PERSIST")
-		c.want(given == "", api.BadSyntax)
+	for c.Left() > 0 {
+		unit := c.OneOf("EX", "PX", "EXAT", "PXAT", "PERSIST")
+		c.Want(given == "", api.BadSyntax)
 		given = unit
 		if unit != "PERSIST" {
 			deadline = c.deadline(unit)
@@ -41,34 +41,34 @@ func (c *call) getAndExpire() api.Reply {
 	}
 	text, there := c.text(key)
 	if there && given != "" {
-		c.space.SetDeadline(c.db, key, deadline)
+		c.Space.SetDeadline(c.DB, key, deadline)
 	}
 	return told(text, there)
 }
 
 // setNew: SETNX key value.
 func (c *call) setNew() api.Reply {
-	key := c.next()
-	if c.isThere(key) {
+	key := c.Next()
+	if c.isTaken(key) {
 		return api.Number(0)
 	}
-	c.lay(key, c.next(), 0)
+	c.lay(key, c.Next(), 0)
 	return api.Number(1)
 }
 
 // setAndExpire: SETEX key n value, PSETEX key n value.
 func (c *call) setAndExpire() api.Reply {
-	key := c.next()
+	key := c.Next()
 	deadline := c.deadline(c.name)
-	c.lay(key, c.next(), deadline)
+	c.lay(key, c.Next(), deadline)
 	return done()
 }
 
 // getMany: MGET key ..
 func (c *call) getMany() api.Reply {
 	var found []api.Reply
-	for c.left() > 0 {
-		key := c.next()
+	for c.Left() > 0 {
+		key := c.Next()
 		if c.kind(key) == api.ValText {
 			found = append(found, told(c.text(key)))
 		} else {
@@ -88,7 +88,7 @@ func (c *call) setMany() api.Reply {
 	for i, key := range keys {
 		// What a later pair lays over is not laid down at all: the heap need have room only for what stays.
 		if last[string(key)] == i {
-			c.lay(key, c.args[2*i+2], 0)
+			c.lay(key, c.Args[2*i+2], 0)
 		}
 	}
 	return done()
@@ -97,7 +97,7 @@ func (c *call) setMany() api.Reply {
 // setManyNew: MSETNX key value ..
 func (c *call) setManyNew() api.Reply {
 	for _, key := range c.everySecond() {
-		if c.isThere(key) {
+		if c.isTaken(key) {
 			return api.Number(0)
 		}
 	}
@@ -105,11 +105,12 @@ func (c *call) setManyNew() api.Reply {
 	return api.Number(1)
 }
 
-// everySecond tells the keys of a command that has a value behind each.
+// everySecond tells the keys of a command that has a value behind each; none may lack it.
 func (c *call) everySecond() [][]byte {
+	c.Want(c.Left()%2 == 0, api.BadArity)
 	var keys [][]byte
-	for i := 1; i < len(c.args); i += 2 {
-		keys = append(keys, c.args[i])
+	for i := 1; i < len(c.Args); i += 2 {
+		keys = append(keys, c.Args[i])
 	}
 	return keys
 }

@@ -1,0 +1,76 @@
+package rows
+
+import (
+	"larder/api"
+	"larder/chain"
+)
+
+// popLeft: LPOP key [count].
+func (c *call) popLeft() api.Reply { return c.pop(true) }
+
+// popRight: RPOP key [count].
+func (c *call) popRight() api.Reply { return c.pop(false) }
+
+func (c *call) pop(left bool) api.Reply {
+	key := c.Next()
+	if c.Left() == 0 {
+		return c.change(key, api.Nil(), func(l *chain.List) api.Reply {
+			b, _ := l.Pop(left)
+			return api.Bulk(b)
+		})
+	}
+	count := c.NumberFrom(0)
+	c.Want(c.Left() == 0, api.BadSyntax)
+	return c.change(key, api.NilArray(), func(l *chain.List) api.Reply {
+		return bulks(take(l, left, count))
+	})
+}
+
+// popFirst: LMPOP numkeys key .. LEFT|RIGHT [COUNT c].
+func (c *call) popFirst() api.Reply {
+	keys := c.keys()
+	left := c.isLeft()
+	count := c.count()
+	c.wantLists(keys...)
+	for _, key := range keys {
+		if c.isThere(key) {
+			return c.edit(key, func(l *chain.List) api.Reply {
+				return api.Array([]api.Reply{api.Bulk(key), bulks(take(l, left, count))})
+			})
+		}
+	}
+	return api.NilArray()
+}
+
+// keys reads how many keys follow, and the keys; an argument at least must stand behind them.
+func (c *call) keys() [][]byte {
+	n := c.NumberFrom(1)
+	c.Want(n < int64(c.Left()), api.BadSyntax)
+	var found [][]byte
+	for range n {
+		found = append(found, c.Next())
+	}
+	return found
+}
+
+// count reads [COUNT c], behind which nothing stands; 1, if there is none.
+func (c *call) count() int64 {
+	if c.Left() == 0 {
+		return 1
+	}
+	c.OneOf("COUNT")
+	c.Want(c.Left() > 0, api.BadSyntax)
+	n := c.NumberFrom(1)
+	c.Want(c.Left() == 0, api.BadSyntax)
+	return n
+}
+
+// take takes so many elements away at an end, or all there are, and tells them in the order in which they go.
+func take(l *chain.List, left bool, count int64) [][]byte {
+	var found [][]byte
+	for range size(count, l.Len()) {
+		b, _ := l.Pop(left)
+		found = append(found, b)
+	}
+	return found
+}
