@@ -40,3 +40,27 @@ func (c *Call) OneOf(words ...string) string {
 	c.Want(slices.Contains(words, w), api.BadSyntax)
 	return w
 }
+
+// Once asks of an option's word that it has not been given before, and that an argument stands behind it.
+func (c *Call) Once(given *bool) {
+	c.Want(!*given && c.Left() > 0, api.BadSyntax)
+	*given = true
+}
+
+// Keys reads how many keys follow, and the keys; so many arguments at least must stand behind them.
+func (c *Call) Keys(behind int) [][]byte {
+	n := c.NumberFrom(1)
+	c.Want(n <= int64(c.Left()-behind), api.BadSyntax)
+	return c.take(int(n))
+}
+
+// Rest reads all arguments that are left.
+func (c *Call) Rest() [][]byte { return c.take(c.Left()) }
+
+func (c *Call) take(n int) [][]byte {
+	var found [][]byte
+	for range n {
+		found = append(found, c.Next())
+	}
+	return found
+}

@@ -61,18 +61,6 @@ func (c *call) open(ref uint64, work func(*chain.List) api.Reply) api.Reply {
 	return work(l)
 }
 
-// bulks answers elements.
-func bulks(elements [][]byte) api.Reply {
-	found := make([]api.Reply, 0, len(elements))
-	for _, b := range elements {
-		found = append(found, api.Bulk(b))
-	}
-	return api.Array(found)
-}
-
-// number answers how many there are of something, or which one it is.
-func number(n int) api.Reply { return api.Number(int64(n)) }
-
 // size tells a number without its sign, or most, if that is less.
 func size(n int64, most int) int {
 	if n < 0 {

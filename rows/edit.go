@@ -5,11 +5,9 @@ import (
 
 	"larder/api"
 	"larder/chain"
+	"larder/command"
 	"larder/match"
 )
-
-// done answers that a command is carried out.
-func done() api.Reply { return api.Status("OK") }
 
 // set: LSET key index element.
 func (c *call) set() api.Reply {
@@ -21,7 +19,7 @@ func (c *call) set() api.Reply {
 		i, there := at(index, l.Len())
 		c.Want(there, api.BadRange)
 		c.WantRoom(l.Set(i, element))
-		return done()
+		return command.Done()
 	})
 }
 
@@ -31,16 +29,16 @@ func (c *call) insert() api.Reply {
 	where := c.OneOf("BEFORE", "AFTER")
 	pivot := c.Next()
 	element := c.Next()
-	return c.change(key, number(0), func(l *chain.List) api.Reply {
+	return c.change(key, command.Int(0), func(l *chain.List) api.Reply {
 		i := first(l, pivot)
 		if i < 0 {
-			return number(-1)
+			return command.Int(-1)
 		}
 		if where == "AFTER" {
 			i++
 		}
 		c.WantRoom(l.Insert(i, element))
-		return number(l.Len())
+		return command.Int(l.Len())
 	})
 }
 
@@ -59,9 +57,9 @@ func (c *call) strike() api.Reply {
 	key := c.Next()
 	count := c.Number()
 	element := c.Next()
-	return c.change(key, number(0), func(l *chain.List) api.Reply {
+	return c.change(key, command.Int(0), func(l *chain.List) api.Reply {
 		gone, _ := l.Strike(count >= 0, some(count, l.Len()), element)
-		return number(gone)
+		return command.Int(gone)
 	})
 }
 
@@ -70,10 +68,10 @@ func (c *call) trim() api.Reply {
 	key := c.Next()
 	start := c.Number()
 	stop := c.Number()
-	return c.change(key, done(), func(l *chain.List) api.Reply {
+	return c.change(key, command.Done(), func(l *chain.List) api.Reply {
 		from, count := match.Window(start, stop, l.Len())
 		l.Cut(from+count, l.Len()-from-count)
 		l.Cut(0, from)
-		return done()
+		return command.Done()
 	})
 }

@@ -3,6 +3,7 @@ package rows
 import (
 	"larder/api"
 	"larder/chain"
+	"larder/command"
 )
 
 // popLeft: LPOP key [count].
@@ -22,35 +23,24 @@ func (c *call) pop(left bool) api.Reply {
 	count := c.NumberFrom(0)
 	c.Want(c.Left() == 0, api.BadSyntax)
 	return c.change(key, api.NilArray(), func(l *chain.List) api.Reply {
-		return bulks(take(l, left, count))
+		return command.Bulks(take(l, left, count))
 	})
 }
 
 // popFirst: LMPOP numkeys key .. LEFT|RIGHT [COUNT c].
 func (c *call) popFirst() api.Reply {
-	keys := c.keys()
+	keys := c.Keys(1)
 	left := c.isLeft()
 	count := c.count()
 	c.wantLists(keys...)
 	for _, key := range keys {
 		if c.isThere(key) {
 			return c.edit(key, func(l *chain.List) api.Reply {
-				return api.Array([]api.Reply{api.Bulk(key), bulks(take(l, left, count))})
+				return api.Array([]api.Reply{api.Bulk(key), command.Bulks(take(l, left, count))})
 			})
 		}
 	}
 	return api.NilArray()
-}
-
-// keys reads how many keys follow, and the keys; an argument at least must stand behind them.
-func (c *call) keys() [][]byte {
-	n := c.NumberFrom(1)
-	c.Want(n < int64(c.Left()), api.BadSyntax)
-	var found [][]byte
-	for range n {
-		found = append(found, c.Next())
-	}
-	return found
 }
 
 // count reads [COUNT c], behind which nothing stands; 1, if there is none.

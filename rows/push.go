@@ -3,6 +3,7 @@ package rows
 import (
 	"larder/api"
 	"larder/chain"
+	"larder/command"
 )
 
 // pushLeft: LPUSH key element ..
@@ -20,7 +21,7 @@ func (c *call) pushRightIfThere() api.Reply { return c.pushIfThere(false) }
 func (c *call) pushIfThere(left bool) api.Reply {
 	key := c.Next()
 	if !c.isThere(key) {
-		return number(0)
+		return command.Int(0)
 	}
 	return c.push(key, left)
 }
@@ -32,6 +33,6 @@ func (c *call) push(key []byte, left bool) api.Reply {
 		for c.Left() > 0 {
 			c.WantRoom(l.Push(left, c.Next()))
 		}
-		return number(l.Len())
+		return command.Int(l.Len())
 	})
 }

@@ -3,13 +3,14 @@ package rows
 import (
 	"larder/api"
 	"larder/chain"
+	"larder/command"
 	"larder/match"
 )
 
 // length: LLEN key.
 func (c *call) length() api.Reply {
-	return c.look(c.Next(), number(0), func(l *chain.List) api.Reply {
-		return number(l.Len())
+	return c.look(c.Next(), command.Int(0), func(l *chain.List) api.Reply {
+		return command.Int(l.Len())
 	})
 }
 
@@ -18,9 +19,9 @@ func (c *call) window() api.Reply {
 	key := c.Next()
 	start := c.Number()
 	stop := c.Number()
-	return c.look(key, bulks(nil), func(l *chain.List) api.Reply {
+	return c.look(key, command.Bulks(nil), func(l *chain.List) api.Reply {
 		found, _ := l.Slice(match.Window(start, stop, l.Len()))
-		return bulks(found)
+		return command.Bulks(found)
 	})
 }
 

@@ -5,6 +5,7 @@ import (
 
 	"larder/api"
 	"larder/chain"
+	"larder/command"
 )
 
 // search is what LPOS is told of how to look.
@@ -33,24 +34,18 @@ func (c *call) search() search {
 	for c.Left() > 0 {
 		switch c.OneOf("RANK", "COUNT", "MAXLEN") {
 		case "RANK":
-			c.once(&ranked)
+			c.Once(&ranked)
 			s.rank = c.Number()
 			c.Want(s.rank != 0, api.BadRange)
 		case "COUNT":
-			c.once(&s.counted)
+			c.Once(&s.counted)
 			s.count = c.NumberFrom(0)
 		case "MAXLEN":
-			c.once(&bounded)
+			c.Once(&bounded)
 			s.most = c.NumberFrom(0)
 		}
 	}
 	return s
-}
-
-// once asks of an option's word that it has not been given before, and that an argument stands behind it.
-func (c *call) once(given *bool) {
-	c.Want(!*given && c.Left() > 0, api.BadSyntax)
-	*given = true
 }
 
 // find tells the numbers of the elements that are wanted, in the order in which they are found.
@@ -73,7 +68,7 @@ func (s search) find(list [][]byte, element []byte) []int {
 func (s search) answer(found []int) api.Reply {
 	var replies []api.Reply
 	for _, i := range found {
-		replies = append(replies, number(i))
+		replies = append(replies, command.Int(i))
 	}
 	switch {
 	case s.counted:

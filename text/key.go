@@ -22,17 +22,6 @@ func (c *call) text(key []byte) ([]byte, bool) {
 	return v.Text, there
 }
 
-// told answers a text that a key had; nil, if the key wasn't there.
-func told(text []byte, there bool) api.Reply {
-	if !there {
-		return api.Nil()
-	}
-	return api.Bulk(text)
-}
-
-// done answers that a command is carried out.
-func done() api.Reply { return api.Status("OK") }
-
 // lay lays a text under a key in the place of what is there, with a deadline, 0: none.
 func (c *call) lay(key, text []byte, deadline uint64) {
 	c.WantRoom(c.Space.Store(c.DB, key, api.Value{Kind: api.ValText, Text: text}))

@@ -1,6 +1,9 @@
 package text
 
-import "larder/api"
+import (
+	"larder/api"
+	"larder/command"
+)
 
 // setOptions is what stands behind SET's key and value; an option that is not given is the empty word.
 type setOptions struct {
@@ -16,7 +19,7 @@ func (c *call) set() api.Reply {
 	o := c.setOptions()
 	var was api.Reply
 	if o.get != "" {
-		was = told(c.text(key))
+		was = command.Found(c.text(key))
 	}
 	laid := o.only == "" || c.isTaken(key) == (o.only == "XX")
 	if laid {
@@ -29,7 +32,7 @@ func (c *call) set() api.Reply {
 	case o.get != "":
 		return was
 	case laid:
-		return done()
+		return command.Done()
 	}
 	return api.Nil()
 }

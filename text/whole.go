@@ -1,9 +1,12 @@
 package text
 
-import "larder/api"
+import (
+	"larder/api"
+	"larder/command"
+)
 
 // get: GET key.
-func (c *call) get() api.Reply { return told(c.text(c.Next())) }
+func (c *call) get() api.Reply { return command.Found(c.text(c.Next())) }
 
 // length: STRLEN key.
 func (c *call) length() api.Reply {
@@ -16,7 +19,7 @@ func (c *call) getAndSet() api.Reply {
 	key := c.Next()
 	was, there := c.text(key)
 	c.lay(key, c.Next(), 0)
-	return told(was, there)
+	return command.Found(was, there)
 }
 
 // getAndRemove: GETDEL key.
@@ -24,7 +27,7 @@ func (c *call) getAndRemove() api.Reply {
 	key := c.Next()
 	was, there := c.text(key)
 	c.Space.Remove(c.DB, key)
-	return told(was, there)
+	return command.Found(was, there)
 }
 
 // getAndExpire: GETEX key [EX n | PX n | EXAT n | PXAT n | PERSIST].
@@ -43,7 +46,7 @@ func (c *call) getAndExpire() api.Reply {
 	if there && given != "" {
 		c.Space.SetDeadline(c.DB, key, deadline)
 	}
-	return told(text, there)
+	return command.Found(text, there)
 }
 
 // setNew: SETNX key value.
@@ -61,7 +64,7 @@ func (c *call) setAndExpire() api.Reply {
 	key := c.Next()
 	deadline := c.deadline(c.name)
 	c.lay(key, c.Next(), deadline)
-	return done()
+	return command.Done()
 }
 
 // getMany: MGET key ..
@@ -70,7 +73,7 @@ func (c *call) getMany() api.Reply {
 	for c.Left() > 0 {
 		key := c.Next()
 		if c.kind(key) == api.ValText {
-			found = append(found, told(c.text(key)))
+			found = append(found, command.Found(c.text(key)))
 		} else {
 			found = append(found, api.Nil())
 		}
@@ -91,7 +94,7 @@ func (c *call) setMany() api.Reply {
 			c.lay(key, c.Args[2*i+2], 0)
 		}
 	}
-	return done()
+	return command.Done()
 }
 
 // setManyNew: MSETNX key value ..

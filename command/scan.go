@@ -1,0 +1,45 @@
+package command
+
+import (
+	"larder/api"
+	"larder/match"
+	"larder/word"
+)
+
+// Page is what a scan is asked for: from which cursor on, how many, and which of those.
+type Page struct {
+	Cursor  uint64
+	Count   int
+	pattern []byte
+}
+
+// Page reads cursor [MATCH pattern] [COUNT n], to the end.
+func (c *Call) Page() Page {
+	cursor, e := word.Uint(c.Next())
+	c.Want(e == api.OK, api.BadCursor)
+	p := Page{Cursor: cursor, Count: 10, pattern: []byte("*")}
+	matched, counted := false, false
+	for c.Left() > 0 {
+		switch c.OneOf("MATCH", "COUNT") {
+		case "MATCH":
+			c.Once(&matched)
+			p.pattern = c.Next()
+		case "COUNT":
+			c.Once(&counted)
+			// No value has more elements than that, so more are never meant.
+			p.Count = int(min(c.NumberFrom(1), api.MaxReply))
+		}
+	}
+	return p
+}
+
+// Answer tells where to go on from, and of the names that were met those that fit, each as tell tells it.
+func (p Page) Answer(next uint64, names [][]byte, tell func(name []byte) [][]byte) api.Reply {
+	var found [][]byte
+	for _, name := range names {
+		if match.Glob(p.pattern, name) {
+			found = append(found, tell(name)...)
+		}
+	}
+	return api.Array([]api.Reply{api.Bulk(word.Digits(next)), Bulks(found)})
+}
