@@ -41,10 +41,30 @@ func (c *Call) OneOf(words ...string) string {
 	return w
 }
 
-// Once asks of an option's word that it has not been given before, and that an argument stands behind it.
-func (c *Call) Once(given *bool) {
-	c.Want(!*given && c.Left() > 0, api.BadSyntax)
+// IsNext tells whether there is an argument left to read, and it is one of these words.
+func (c *Call) IsNext(words ...string) bool {
+	return c.Left() > 0 && slices.Contains(words, match.Fold(c.Args[c.taken]))
+}
+
+// Once asks of an option's word that it has not been given before, that so many arguments stand behind it, and that none of those is given which exclude it.
+func (c *Call) Once(given *bool, behind int, excluding ...bool) {
+	c.Want(!*given && c.Left() >= behind && !slices.Contains(excluding, true), api.BadSyntax)
 	*given = true
+}
+
+// End asks that no argument is left.
+func (c *Call) End() { c.Want(c.Left() == 0, api.BadSyntax) }
+
+// LastNumber reads an option's word with an integer from least on, to the end; where nothing is left to read it tells none.
+func (c *Call) LastNumber(option string, least, none int64) int64 {
+	if c.Left() == 0 {
+		return none
+	}
+	c.OneOf(option)
+	c.Want(c.Left() > 0, api.BadSyntax)
+	n := c.NumberFrom(least)
+	c.End()
+	return n
 }
 
 // Keys reads how many keys follow, and the keys; so many arguments at least must stand behind them.

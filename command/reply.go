@@ -32,3 +32,23 @@ func Bulks(list [][]byte) api.Reply {
 	}
 	return api.Array(found)
 }
+
+// Each answers what tell tells of each argument that is left, in their order.
+func (c *Call) Each(tell func([]byte) api.Reply) api.Reply {
+	var found []api.Reply
+	for c.Left() > 0 {
+		found = append(found, tell(c.Next()))
+	}
+	return api.Array(found)
+}
+
+// HowMany answers of how many arguments that are left something is told to hold; all of them are asked, from left to right.
+func (c *Call) HowMany(holds func([]byte) bool) api.Reply {
+	n := 0
+	for c.Left() > 0 {
+		if holds(c.Next()) {
+			n++
+		}
+	}
+	return Int(n)
+}

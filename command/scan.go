@@ -22,10 +22,10 @@ func (c *Call) Page() Page {
 	for c.Left() > 0 {
 		switch c.OneOf("MATCH", "COUNT") {
 		case "MATCH":
-			c.Once(&matched)
+			c.Once(&matched, 1)
 			p.pattern = c.Next()
 		case "COUNT":
-			c.Once(&counted)
+			c.Once(&counted, 1)
 			// No value has more elements than that, so more are never meant.
 			p.Count = int(min(c.NumberFrom(1), api.MaxReply))
 		}

@@ -43,29 +43,106 @@ func TestR11_5_Keys(t *testing.T) {
 	}
 }
 
-// TestR11_5_Once: an option's word, once, with an argument behind it.
+// TestR11_5_Once: an option's word, once, with so many arguments behind it, and without those that exclude it.
 func TestR11_5_Once(t *testing.T) {
+	bad := api.Text(api.BadSyntax)
 	for _, c := range []struct {
-		line string
-		want string
+		line   string
+		behind int
+		want   string
 	}{
-		{"x a", "OK"}, {"x a y b", "OK"}, {"x", api.Text(api.BadSyntax)}, {"x a x b", api.Text(api.BadSyntax)}, {"x a y", api.Text(api.BadSyntax)},
+		{"x a", 1, "OK"}, {"x a y b", 1, "OK"}, {"y a x b", 1, bad}, {"x", 1, bad}, {"x a x b", 1, bad}, {"x a y", 1, bad},
+		{"x", 0, "OK"}, {"x y", 0, "OK"}, {"x x", 0, bad}, {"y x", 0, bad}, {"y y", 0, bad},
+		{"x a b", 2, "OK"}, {"x a", 2, bad}, {"x a b y c", 2, bad}, {"x a b y c d", 2, "OK"},
 	} {
 		x, y := false, false
 		got := reading(t, c.line, func(call *command.Call) {
 			for call.Left() > 0 {
 				if string(call.Next()) == "x" {
-					call.Once(&x)
+					call.Once(&x, c.behind, false, y)
 				} else {
-					call.Once(&y)
+					call.Once(&y, c.behind)
 				}
-				call.Next()
+				for range c.behind {
+					call.Next()
+				}
 			}
 		})
 		if got != c.want {
 			t.Errorf("%s: %s, want %s", c.line, got, c.want)
 		}
 	}
+}
+
+// TestR11_5_IsNext: it is asked, and not read.
+func TestR11_5_IsNext(t *testing.T) {
+	for _, c := range []struct {
+		line string
+		want bool
+	}{{"ex 1", true}, {"Px", true}, {"EXX", false}, {"1 EX", false}, {"", false}} {
+		reading(t, c.line, func(call *command.Call) {
+			n := call.Left()
+			if got := call.IsNext("EX", "PX"); got != c.want || call.Left() != n {
+				t.Errorf("%s: %v, %d arguments are left", c.line, got, call.Left())
+			}
+		})
+	}
+}
+
+// TestR11_5_LastNumber: an option with a number, behind which nothing stands; or nothing at all.
+func TestR11_5_LastNumber(t *testing.T) {
+	for _, c := range []struct {
+		line        string
+		least, none int64
+		want        string
+	}{
+		{"", 1, 7, "7"}, {"COUNT 1", 1, 7, "1"}, {"count 9223372036854775807", 1, 7, "9223372036854775807"}, {"COUNT 0", 0, 7, "0"},
+		{"COUNT 0", 1, 7, api.Text(api.BadRange)}, {"COUNT -1 x", 0, 7, api.Text(api.BadRange)}, {"COUNT x", 1, 7, api.Text(api.BadInt)}, {"COUNT x x", 1, 7, api.Text(api.BadInt)},
+		{"COUNT", 1, 7, api.Text(api.BadSyntax)}, {"LIMIT 1", 1, 7, api.Text(api.BadSyntax)}, {"1", 1, 7, api.Text(api.BadSyntax)}, {"COUNT 1 x", 1, 7, api.Text(api.BadSyntax)}, {"COUNT 1 COUNT 1", 1, 7, api.Text(api.BadSyntax)},
+	} {
+		got := ""
+		e := reading(t, c.line, func(call *command.Call) { got = fmt.Sprint(call.LastNumber("COUNT", c.least, c.none)) })
+		if e != "OK" {
+			got = e
+		}
+		if got != c.want {
+			t.Errorf("%s: %s, want %s", c.line, got, c.want)
+		}
+	}
+}
+
+func TestR11_5_End(t *testing.T) {
+	if got := reading(t, "", (*command.Call).End); got != "OK" {
+		t.Errorf("nothing left: %s", got)
+	}
+	if got := reading(t, "x", (*command.Call).End); got != api.Text(api.BadSyntax) {
+		t.Errorf("x left: %s", got)
+	}
+}
+
+// TestEachAndHowMany: all arguments that are left are asked, from left to right.
+func TestEachAndHowMany(t *testing.T) {
+	reading(t, "a b a", func(c *command.Call) {
+		r := c.Each(func(b []byte) api.Reply { return api.Number(int64(b[0])) })
+		if r.Kind != api.ReplyArray || fmt.Sprint(r.List) != fmt.Sprint([]api.Reply{api.Number('a'), api.Number('b'), api.Number('a')}) || c.Left() != 0 {
+			t.Errorf("Each: %v", r)
+		}
+	})
+	reading(t, "a b a", func(c *command.Call) {
+		seen := ""
+		r := c.HowMany(func(b []byte) bool {
+			seen += string(b)
+			return b[0] == 'a'
+		})
+		if fmt.Sprint(r) != fmt.Sprint(api.Number(2)) || seen != "aba" {
+			t.Errorf("HowMany: %v of %s", r, seen)
+		}
+	})
+	reading(t, "", func(c *command.Call) {
+		if r, n := c.Each(nil), c.HowMany(nil); r.Kind != api.ReplyArray || len(r.List) != 0 || n.Kind != api.ReplyInt || n.Num != 0 {
+			t.Errorf("of nothing: %v, %v", r, n)
+		}
+	})
 }
 
 func TestR11_5_Rest(t *testing.T) {

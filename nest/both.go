@@ -29,7 +29,7 @@ func (c *call) contains() api.Reply {
 // remove: HDEL key field .., SREM key member ..
 func (c *call) remove() api.Reply {
 	return c.lessen(c.Next(), func(l elements) api.Reply {
-		return c.count(l.take)
+		return c.HowMany(l.take)
 	})
 }
 

@@ -62,23 +62,3 @@ func (c *call) open(ref uint64, work func(elements) api.Reply) api.Reply {
 	defer t.Close()
 	return work(elements{t, c.Space.Heap()})
 }
-
-// each answers what tell tells of each argument that is left, in their order.
-func (c *call) each(tell func([]byte) api.Reply) api.Reply {
-	var found []api.Reply
-	for c.Left() > 0 {
-		found = append(found, tell(c.Next()))
-	}
-	return api.Array(found)
-}
-
-// count answers of how many arguments that are left something is told to hold; all of them are asked, from left to right.
-func (c *call) count(holds func([]byte) bool) api.Reply {
-	n := 0
-	for c.Left() > 0 {
-		if holds(c.Next()) {
-			n++
-		}
-	}
-	return command.Int(n)
-}

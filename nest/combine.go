@@ -29,24 +29,12 @@ func (c *call) layDifference() api.Reply { return c.lay(c.difference) }
 // countIntersection: SINTERCARD count key .. [LIMIT n].
 func (c *call) countIntersection() api.Reply {
 	keys := c.Keys(0)
-	limit := c.limit()
+	limit := c.LastNumber("LIMIT", 0, 0)
 	n := int64(len(c.intersection(keys)))
 	if limit != 0 {
 		n = min(n, limit)
 	}
 	return api.Number(n)
-}
-
-// limit reads [LIMIT n], behind which nothing stands; 0, if there is none.
-func (c *call) limit() int64 {
-	if c.Left() == 0 {
-		return 0
-	}
-	c.OneOf("LIMIT")
-	c.Want(c.Left() > 0, api.BadSyntax)
-	n := c.NumberFrom(0)
-	c.Want(c.Left() == 0, api.BadSyntax)
-	return n
 }
 
 // lay lays what is combined of the keys' sets under the first key, in the place of what is there, and answers how many members that are.

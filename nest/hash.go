@@ -17,7 +17,7 @@ func (c *call) get() api.Reply {
 // getMany: HMGET key field ..
 func (c *call) getMany() api.Reply {
 	return c.look(c.Next(), func(l elements) api.Reply {
-		return c.each(func(field []byte) api.Reply { return command.Found(l.value(field)) })
+		return c.Each(func(field []byte) api.Reply { return command.Found(l.value(field)) })
 	})
 }
 
@@ -55,7 +55,7 @@ func (c *call) fields(tell func(field, value []byte) [][]byte) api.Reply {
 func (c *call) set() api.Reply {
 	c.Want(len(c.Args)%2 == 0, api.BadArity)
 	return c.edit(c.Next(), func(l elements) api.Reply {
-		return c.count(func(field []byte) bool { return c.put(l, field, c.Next()) })
+		return c.HowMany(func(field []byte) bool { return c.put(l, field, c.Next()) })
 	})
 }
 

@@ -10,7 +10,7 @@ import (
 // add: SADD key member ..
 func (c *call) add() api.Reply {
 	return c.edit(c.Next(), func(l elements) api.Reply {
-		return c.count(func(member []byte) bool { return c.bring(l, member) })
+		return c.HowMany(func(member []byte) bool { return c.bring(l, member) })
 	})
 }
 
@@ -24,7 +24,7 @@ func (c *call) bring(l elements, member []byte) bool {
 // containsMany: SMISMEMBER key member ..
 func (c *call) containsMany() api.Reply {
 	return c.look(c.Next(), func(l elements) api.Reply {
-		return c.each(func(member []byte) api.Reply { return command.Flag(l.has(member)) })
+		return c.Each(func(member []byte) api.Reply { return command.Flag(l.has(member)) })
 	})
 }
 
@@ -59,7 +59,7 @@ func (c *call) pop() api.Reply {
 		})
 	}
 	count := c.NumberFrom(0)
-	c.Want(c.Left() == 0, api.BadSyntax)
+	c.End()
 	return c.lessen(key, func(l elements) api.Reply {
 		return command.Bulks(l.takeLeast(count))
 	})

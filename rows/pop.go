@@ -21,7 +21,7 @@ func (c *call) pop(left bool) api.Reply {
 		})
 	}
 	count := c.NumberFrom(0)
-	c.Want(c.Left() == 0, api.BadSyntax)
+	c.End()
 	return c.change(key, api.NilArray(), func(l *chain.List) api.Reply {
 		return command.Bulks(take(l, left, count))
 	})
@@ -31,7 +31,7 @@ func (c *call) pop(left bool) api.Reply {
 func (c *call) popFirst() api.Reply {
 	keys := c.Keys(1)
 	left := c.isLeft()
-	count := c.count()
+	count := c.LastNumber("COUNT", 1, 1)
 	c.wantLists(keys...)
 	for _, key := range keys {
 		if c.isThere(key) {
@@ -41,18 +41,6 @@ func (c *call) popFirst() api.Reply {
 		}
 	}
 	return api.NilArray()
-}
-
-// count reads [COUNT c], behind which nothing stands; 1, if there is none.
-func (c *call) count() int64 {
-	if c.Left() == 0 {
-		return 1
-	}
-	c.OneOf("COUNT")
-	c.Want(c.Left() > 0, api.BadSyntax)
-	n := c.NumberFrom(1)
-	c.Want(c.Left() == 0, api.BadSyntax)
-	return n
 }
 
 // take takes so many elements away at an end, or all there are, and tells them in the order in which they go.

@@ -34,14 +34,14 @@ func (c *call) search() search {
 	for c.Left() > 0 {
 		switch c.OneOf("RANK", "COUNT", "MAXLEN") {
 		case "RANK":
-			c.Once(&ranked)
+			c.Once(&ranked, 1)
 			s.rank = c.Number()
 			c.Want(s.rank != 0, api.BadRange)
 		case "COUNT":
-			c.Once(&s.counted)
+			c.Once(&s.counted, 1)
 			s.count = c.NumberFrom(0)
 		case "MAXLEN":
-			c.Once(&bounded)
+			c.Once(&bounded, 1)
 			s.most = c.NumberFrom(0)
 		}
 	}

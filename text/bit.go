@@ -72,7 +72,7 @@ func (c *call) window() window {
 	if c.Left() > 0 {
 		w.unit = c.OneOf("BYTE", "BIT")
 	}
-	c.Want(c.Left() == 0, api.BadSyntax)
+	c.End()
 	return w
 }
 
