@@ -154,7 +154,7 @@ func TestR10_AFullSpaceStillAnswers(t *testing.T) {
 	wantRoom(t, s)
 }
 
-// TestR10_CommandsAsGreatAsCanBe: in the smallest space as in the greatest, within the quota and far above it, at every height.
+// TestR10_CommandsAsGreatAsCanBe: in the smallest space as in the greatest, within the quota and far above it, at the levels 1, 2 and 8.
 func TestR10_CommandsAsGreatAsCanBe(t *testing.T) {
 	for _, quota := range []int{api.MinQuota, 1000, api.MaxQuota} {
 		for _, size := range []int{2, 10, 500, 900, api.MaxText} {
