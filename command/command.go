@@ -50,8 +50,12 @@ func (c *Call) Begin() string {
 // WantRow asks whether the name is known, and whether the row that it has takes so many arguments.
 func (c *Call) WantRow(row api.Command, known bool) {
 	c.Want(known, api.BadName)
-	n := len(c.Args)
-	c.Want(n == row.Arity || row.Arity < 0 && n >= -row.Arity, api.BadArity)
+	c.Want(Takes(row, len(c.Args)), api.BadArity)
+}
+
+// Takes tells whether a row takes so many arguments, the name with them.
+func Takes(row api.Command, n int) bool {
+	return n == row.Arity || row.Arity < 0 && n >= -row.Arity
 }
 
 // IsThere tells whether a key has a value; one of another kind than this is refused.

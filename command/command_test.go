@@ -108,6 +108,20 @@ func TestR11_2_Begin(t *testing.T) {
 	}
 }
 
+// TestTakes: n arguments, or n and more.
+func TestTakes(t *testing.T) {
+	for _, c := range []struct {
+		arity, n int
+		want     bool
+	}{
+		{2, 1, false}, {2, 2, true}, {2, 3, false}, {-2, 1, false}, {-2, 2, true}, {-2, 128, true}, {1, 1, true}, {1, 0, false}, {-1, 0, false}, {-1, 1, true},
+	} {
+		if got := command.Takes(api.Command{Arity: c.arity}, c.n); got != c.want {
+			t.Errorf("%d of %d: %v", c.n, c.arity, got)
+		}
+	}
+}
+
 // TestR11_3_4_WantRow: the name ahead of the number of arguments.
 func TestR11_3_4_WantRow(t *testing.T) {
 	s := made(t)

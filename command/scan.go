@@ -10,17 +10,22 @@ import (
 type Page struct {
 	Cursor  uint64
 	Count   int
+	Type    string // folded; empty: any
 	pattern []byte
 }
 
-// Page reads cursor [MATCH pattern] [COUNT n], to the end.
-func (c *Call) Page() Page {
+// Page reads cursor [MATCH pattern] [COUNT n], to the end; where types are named, which stand folded, [TYPE type] too.
+func (c *Call) Page(types ...string) Page {
 	cursor, e := word.Uint(c.Next())
 	c.Want(e == api.OK, api.BadCursor)
 	p := Page{Cursor: cursor, Count: 10, pattern: []byte("*")}
-	matched, counted := false, false
+	options := []string{"MATCH", "COUNT"}
+	if len(types) > 0 {
+		options = append(options, "TYPE")
+	}
+	matched, counted, typed := false, false, false
 	for c.Left() > 0 {
-		switch c.OneOf("MATCH", "COUNT") {
+		switch c.OneOf(options...) {
 		case "MATCH":
 			c.Once(&matched, 1)
 			p.pattern = c.Next()
@@ -28,6 +33,9 @@ func (c *Call) Page() Page {
 			c.Once(&counted, 1)
 			// No value has more elements than that, so more are never meant.
 			p.Count = int(min(c.NumberFrom(1), api.MaxReply))
+		case "TYPE":
+			c.Once(&typed, 1)
+			p.Type = c.OneOf(types...)
 		}
 	}
 	return p

@@ -176,6 +176,29 @@ func TestPage(t *testing.T) {
 	}
 }
 
+// TestPageOfTypes: where types are named, one of them may be asked for.
+func TestPageOfTypes(t *testing.T) {
+	for _, c := range []struct{ line, want string }{
+		{"0", "0 10 "}, {"0 TYPE set", "0 10 SET"}, {"0 tYpe LiSt COUNT 3", "0 3 LIST"}, {"7 COUNT 3 MATCH TYPE type SET", "7 3 SET"},
+		{"0 TYPE", api.Text(api.BadSyntax)}, {"0 TYPE x", api.Text(api.BadSyntax)}, {"0 TYPE x COUNT 0", api.Text(api.BadSyntax)}, {"0 TYPE set TYPE set", api.Text(api.BadSyntax)}, {"0 COUNT 0 TYPE x", api.Text(api.BadRange)}, {"x TYPE x", api.Text(api.BadCursor)},
+	} {
+		got := ""
+		e := reading(t, c.line, func(call *command.Call) {
+			p := call.Page("SET", "LIST")
+			got = fmt.Sprintf("%d %d %s", p.Cursor, p.Count, p.Type)
+		})
+		if e != "OK" {
+			got = e
+		}
+		if got != c.want {
+			t.Errorf("%s: %s, want %s", c.line, got, c.want)
+		}
+	}
+	if e := reading(t, "0 TYPE set", func(call *command.Call) { call.Page() }); e != api.Text(api.BadSyntax) {
+		t.Errorf("where no types are named: %s", e)
+	}
+}
+
 // TestAnswer: the cursor, and what fits, each as it is told.
 func TestAnswer(t *testing.T) {
 	for _, c := range []struct{ line, want string }{
